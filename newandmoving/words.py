@@ -1,0 +1,60 @@
+"""Words with signs, the points that four of them tell, and when lists of points are refused."""
+
+WORDS = 4294967296
+LEAST_BELOW_ZERO = 2147483648
+NUMBERS_A_POINT = 4
+LAST_TIME = 65535
+FARTHEST_PLACE = 32768
+GREATEST_BRIGHTNESS = 65536
+
+
+class Point:
+    def __init__(self, t, x, y, brightness):
+        self.t = t
+        self.x = x
+        self.y = y
+        self.brightness = brightness
+
+
+# Words below 0 come with 2^32 added.
+def signed(word):
+    if word < LEAST_BELOW_ZERO:
+        return word
+    return word - WORDS
+
+
+def count_points(numbers):
+    return len(numbers) // NUMBERS_A_POINT
+
+
+def read_point(numbers, k):
+    start = k * NUMBERS_A_POINT
+    return Point(
+        signed(numbers[start]),
+        signed(numbers[start + 1]),
+        signed(numbers[start + 2]),
+        signed(numbers[start + 3]),
+    )
+
+
+def read_points(numbers):
+    return [read_point(numbers, k) for k in range(count_points(numbers))]
+
+
+def is_as_told(point):
+    return (
+        0 <= point.t <= LAST_TIME
+        and abs(point.x) <= FARTHEST_PLACE
+        and abs(point.y) <= FARTHEST_PLACE
+        and abs(point.brightness) <= GREATEST_BRIGHTNESS
+    )
+
+
+# All numbers and lengths are looked at before any point is, since -2 goes ahead of -3; 0 is no refusal.
+def refusal(in_range, most, lists):
+    if not in_range or any([count_points(numbers) > most for numbers in lists]):
+        return -2
+    for numbers in lists:
+        if not all([is_as_told(point) for point in read_points(numbers)]):
+            return -3
+    return 0
