@@ -1,4 +1,4 @@
-"""Words with signs, the points that four of them tell, and when lists of points are refused."""
+"""Words with signs, the points that four of them tell, their 256ths, and when lists of points are refused."""
 
 WORDS = 4294967296
 LEAST_BELOW_ZERO = 2147483648
@@ -6,6 +6,7 @@ NUMBERS_A_POINT = 4
 LAST_TIME = 65535
 FARTHEST_PLACE = 32768
 GREATEST_BRIGHTNESS = 65536
+FINE_PARTS = 256
 
 
 class Point:
@@ -14,6 +15,13 @@ class Point:
         self.x = x
         self.y = y
         self.brightness = brightness
+
+
+# Its x and y are 256ths, so that a place between whole numbers is told as whole numbers too.
+class FinePlace:
+    def __init__(self, x, y):
+        self.x = x
+        self.y = y
 
 
 # Words below 0 come with 2^32 added.
@@ -39,6 +47,15 @@ def read_point(numbers, k):
 
 def read_points(numbers):
     return [read_point(numbers, k) for k in range(count_points(numbers))]
+
+
+def finely(point):
+    return FinePlace(FINE_PARTS * point.x, FINE_PARTS * point.y)
+
+
+# Half is added before rounding down, so that of two as near the greater is taken, below 0 too; by is above 0.
+def rounded(number, by):
+    return (2 * number + by) // (2 * by)
 
 
 def is_as_told(point):
