@@ -1,6 +1,6 @@
-"""What is new among points, what has become of the known ones, and which may be one thing going on."""
+"""What is new among points, what has become of the known ones, which may be one thing going on, and where it is."""
 
-from newandmoving.words import FINE_PARTS, FinePlace, finely, read_points, refusal, rounded
+from newandmoving.words import FINE_PARTS, FinePlace, finely, long_word, read_points, refusal, rounded, signed
 
 MOST_POINTS_SEEN = 256
 MOST_POINTS_JOINED = 48
@@ -14,6 +14,16 @@ AS_IT_WAS = 0
 BRIGHTER = 1
 FAINTER = 2
 GONE = 3
+
+
+# All but g are times g, so that they stay whole numbers.
+class Fit:
+    def __init__(self, x0, vx, y0, vy, g):
+        self.x0 = x0
+        self.vx = vx
+        self.y0 = y0
+        self.vy = vy
+        self.g = g
 
 
 # Squared, so that it stays a whole number.
@@ -113,6 +123,45 @@ def way_from(e, pair, points):
     return way
 
 
+def sum_of_products(us, vs):
+    return sum([us[k] * vs[k] for k in range(len(us))])
+
+
+# None where there is no fit: fewer than two points, or all at one time.
+def fit_of(points):
+    n = len(points)
+    ts = [point.t for point in points]
+    xs = [point.x for point in points]
+    ys = [point.y for point in points]
+    sum_t = sum(ts)
+    sum_tt = sum_of_products(ts, ts)
+    g = n * sum_tt - sum_t * sum_t
+    if g <= 0:
+        return None
+    sum_x = sum(xs)
+    sum_tx = sum_of_products(ts, xs)
+    sum_y = sum(ys)
+    sum_ty = sum_of_products(ts, ys)
+    return Fit(
+        sum_tt * sum_x - sum_t * sum_tx,
+        n * sum_tx - sum_t * sum_x,
+        sum_tt * sum_y - sum_t * sum_ty,
+        n * sum_ty - sum_t * sum_y,
+        g,
+    )
+
+
+def place_at(fit, t):
+    return FinePlace(
+        rounded(FINE_PARTS * (fit.x0 + fit.vx * t), fit.g),
+        rounded(FINE_PARTS * (fit.y0 + fit.vy * t), fit.g),
+    )
+
+
+def worst_of(fit, points):
+    return max([how_far(place_at(fit, point.t), finely(point)) for point in points])
+
+
 def mo_new(r, known, l):
     refused = refusal(r <= MOST_R, MOST_POINTS_SEEN, [known, l])
     if refused < 0:
@@ -156,3 +205,24 @@ def mo_ways(q, e, least, l):
             for k in way:
                 way_of[k] = many
     return [many] + way_of
+
+
+def mo_ahead(t, ab):
+    refused = refusal(True, MOST_POINTS_JOINED, [ab])
+    if refused < 0:
+        return [refused]
+    points = read_points(ab)
+    place = where_they_say(points[0], points[1], signed(t))
+    return [0, long_word(place.x), long_word(place.y)]
+
+
+def mo_fit(l):
+    refused = refusal(True, MOST_POINTS_JOINED, [l])
+    if refused < 0:
+        return [refused]
+    points = read_points(l)
+    fit = fit_of(points)
+    if fit is None:
+        return [-4]
+    told = [long_word(number) for number in (fit.x0, fit.vx, fit.y0, fit.vy, fit.g)]
+    return [0, len(told)] + told + [1, long_word(worst_of(fit, points))]

@@ -1,6 +1,7 @@
 """Words with signs, the points that four of them tell, their 256ths, and when lists of points are refused."""
 
 WORDS = 4294967296
+LONG_WORDS = 18446744073709551616
 LEAST_BELOW_ZERO = 2147483648
 NUMBERS_A_POINT = 4
 LAST_TIME = 65535
@@ -29,6 +30,11 @@ def signed(word):
     if word < LEAST_BELOW_ZERO:
         return word
     return word - WORDS
+
+
+# Numbers below 0 are answered with 2^64 added.
+def long_word(number):
+    return number % LONG_WORDS
 
 
 def count_points(numbers):

@@ -1,4 +1,4 @@
-"""How the tests tell points: as tuples with signs, turned into the words that the program takes."""
+"""How the tests tell points and answers: with signs, turned into the words that the program takes and gives."""
 
 WORDS = 2 ** 32
 
@@ -11,6 +11,11 @@ def told(*points):
 def at(x, y, brightness=0, t=0):
     """A point at a place."""
     return (t, x, y, brightness)
+
+
+def long_words(*numbers):
+    """The words of 64 bits that numbers are answered as."""
+    return [number % 2 ** 64 for number in numbers]
 
 
 # One step beyond what a point may have, each in one number alone, and words far from any range.
