@@ -9,6 +9,8 @@ MOST_D = 131072
 MOST_Q = 65535
 MOST_E = 16777216
 MOST_LEAST = 255
+MOST_TIMES = 256
+FARTHEST_TIME = 65536
 
 AS_IT_WAS = 0
 BRIGHTER = 1
@@ -162,6 +164,10 @@ def worst_of(fit, points):
     return max([how_far(place_at(fit, point.t), finely(point)) for point in points])
 
 
+def place_words(place):
+    return [long_word(place.x), long_word(place.y)]
+
+
 def mo_new(r, known, l):
     refused = refusal(r <= MOST_R, MOST_POINTS_SEEN, [known, l])
     if refused < 0:
@@ -212,8 +218,7 @@ def mo_ahead(t, ab):
     if refused < 0:
         return [refused]
     points = read_points(ab)
-    place = where_they_say(points[0], points[1], signed(t))
-    return [0, long_word(place.x), long_word(place.y)]
+    return [0] + place_words(where_they_say(points[0], points[1], signed(t)))
 
 
 def mo_fit(l):
@@ -226,3 +231,32 @@ def mo_fit(l):
         return [-4]
     told = [long_word(number) for number in (fit.x0, fit.vx, fit.y0, fit.vy, fit.g)]
     return [0, len(told)] + told + [1, long_word(worst_of(fit, points))]
+
+
+def mo_place(l, ts):
+    refused = refusal(len(ts) <= MOST_TIMES, MOST_POINTS_JOINED, [l])
+    if refused < 0:
+        return [refused]
+    times = [signed(word) for word in ts]
+    # Ahead of the fit, since -3 goes ahead of -4.
+    if any([abs(t) > FARTHEST_TIME for t in times]):
+        return [-3]
+    fit = fit_of(read_points(l))
+    if fit is None:
+        return [-4]
+    answer = [0]
+    for t in times:
+        answer.extend(place_words(place_at(fit, t)))
+    return answer
+
+
+def mo_one(e, a, b):
+    refused = refusal(e <= MOST_E, MOST_POINTS_JOINED, [a, b])
+    if refused < 0:
+        return [refused]
+    points = read_points(a) + read_points(b)
+    fit = fit_of(points)
+    # Without a fit they are not one, which is an answer here and no refusal.
+    if fit is None or worst_of(fit, points) > e * e:
+        return [0]
+    return [1]

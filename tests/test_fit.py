@@ -2,10 +2,9 @@
 
 import inspect
 import unittest
-from fractions import Fraction
-from math import floor
 
 from newandmoving.points import mo_fit
+from tests.fits import has_fit, line, scattered, worst
 from tests.told import EDGE_POINTS, NOT_POINTS, Unchanging, at, long_words, told
 
 
@@ -13,44 +12,13 @@ def answer(x0, vx, y0, vy, g, worst):
     return [0, 5] + long_words(x0, vx, y0, vy, g) + [1] + long_words(worst)
 
 
-def line(points, k):
-    """Start and speed by least squares, from the means instead of the sums."""
-    n = len(points)
-    mean_t = Fraction(sum(point[0] for point in points), n)
-    mean = Fraction(sum(point[k] for point in points), n)
-    spread = sum((point[0] - mean_t) ** 2 for point in points)
-    speed = sum((point[0] - mean_t) * (point[k] - mean) for point in points) / spread
-    return mean - speed * mean_t, speed
-
-
 def fit_by_the_document(points):
-    if len({point[0] for point in points}) < 2:
+    if not has_fit(points):
         return [-4]
     # The sum over all pairs of the squared time between them is what g comes to.
     g = sum((p[0] - q[0]) ** 2 for p in points for q in points) // 2
-    lines = {k: line(points, k) for k in (1, 2)}
-    far = []
-    for point in points:
-        misses = []
-        for k, (start, speed) in lines.items():
-            place = floor(256 * (start + speed * point[0]) + Fraction(1, 2))
-            misses.append(place - 256 * point[k])
-        far.append(misses[0] ** 2 + misses[1] ** 2)
-    words = [part * g for k in (1, 2) for part in lines[k]]
-    return answer(*[int(word) for word in words], g, max(far))
-
-
-def scattered(many, step, last_time, farthest):
-    """Points that lie as if by chance, the same at each run."""
-    number = step
-    points = []
-    for _ in range(many):
-        numbers = []
-        for limit in (last_time + 1, 2 * farthest + 1, 2 * farthest + 1):
-            number = (number * 6364136223846793005 + 1442695040888963407) % 2 ** 64
-            numbers.append(number // 2 ** 40 % limit)
-        points.append((numbers[0], numbers[1] - farthest, numbers[2] - farthest, 0))
-    return points
+    words = [part * g for k in (1, 2) for part in line(points, k)]
+    return answer(*[int(word) for word in words], g, worst(points))
 
 
 class Ordinary(unittest.TestCase):
