@@ -1,4 +1,4 @@
-"""What is new among points, what has become of the known ones, which may be one thing going on, and where it is."""
+"""What is new, what became of the known points, which may be one thing going on, where it is, what may be chance."""
 
 from newandmoving.words import FINE_PARTS, FinePlace, finely, long_word, read_points, refusal, rounded, signed
 
@@ -11,6 +11,11 @@ MOST_E = 16777216
 MOST_LEAST = 255
 MOST_TIMES = 256
 FARTHEST_TIME = 65536
+
+# The points and the reach of a chance are taken modulo these, and no chance is above certain.
+CHANCE_POINTS = 4096
+CHANCE_REACH = 1024
+CERTAIN = 65536
 
 AS_IT_WAS = 0
 BRIGHTER = 1
@@ -260,3 +265,11 @@ def mo_one(e, a, b):
     if fit is None or worst_of(fit, points) > e * e:
         return [0]
     return [1]
+
+
+def mo_chance1(n, r, w, h):
+    side = 2 * (r % CHANCE_REACH) + 1
+    reached = n % CHANCE_POINTS * side * side
+    # A side of 0 counts as 1, so that there is a field to divide by.
+    field = max(w, 1) * max(h, 1)
+    return [min(reached * CERTAIN // field, CERTAIN)]

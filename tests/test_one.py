@@ -153,6 +153,12 @@ class Edges(unittest.TestCase):
         almost = [(0, 0, 0, 0)] * 47 + [(1, 0, 0, 0)]
         self.assertEqual(one(0, almost, [(65535, 1, 0, 0)]), [1])
 
+    def test_one_beyond_e_e(self):
+        # In 200 times the fit goes on by less than a 256th, told as 1: the one that stayed misses by that alone.
+        stayed = [(0, 0, 0, 0)] * 47 + [(200, 0, 0, 0)]
+        self.assertEqual(one(0, stayed, [(65535, 1, 0, 0)]), [0])
+        self.assertEqual(one(1, stayed, [(65535, 1, 0, 0)]), [1])
+
     def test_halfway_the_greater(self):
         # The second's place is 308 and a half, told as 309; it's at 256 below 0.
         points = [(1, 3, 0, 0), (6, -1, 0, 0), (20, 1, 0, 0), (12, 0, 0, 0), (12, 2, 0, 0)]
